@@ -298,6 +298,11 @@ func slowOwn(owner string, l []Entry, m api.Message) ([]Entry, api.Errno) {
 	if m.Organizer != owner {
 		return l, api.ErrOwner
 	}
+	for _, old := range l {
+		if old.UID == m.UID && old.Organizer != owner {
+			return l, api.ErrAuth
+		}
+	}
 	return slowRenew(l, m)
 }
 
@@ -858,16 +863,38 @@ func TestOwn(t *testing.T) { // P15.1
 	own(t, b, message("REQUEST", 2, 0, "a"), api.OK)
 }
 
-// Own goes on behind both of Apply's ErrAuth's: what stands there of another organizer does not hold an owner up.
-func TestOwnOverAnother(t *testing.T) { // P15.1
+// An owner's own event is refused beside an entry of another organizer, as one that was sent to them is.
+func TestOwnBesideAnother(t *testing.T) { // P15.1, P15.4
+	for _, there := range []int64{-1, 0, 50} {
+		for _, recur := range []int64{-1, 0, 50, 60} {
+			for _, seq := range []int{0, 1, 2} { // Older, as old and newer: ErrAuth is told ahead of ErrOld.
+				for _, attendees := range []string{"b", "a b", "a"} {
+					b := made(t, "a@x")
+					b.Put(entryOf(at(message("REQUEST", 1, 1, "a"), there)))
+					m := by(at(message("REQUEST", seq, 1, attendees), recur), "a@x")
+					own(t, b, m, api.ErrAuth)
+					own(t, b, named(m, "u2"), api.OK)
+				}
+			}
+		}
+	}
+	// What is another Organizer's stays so when it is called off.
 	b := made(t, "a@x")
 	apply(t, b, "o@x", message("REQUEST", 1, 0, "a"), api.OK)
-	own(t, b, by(message("REQUEST", 1, 0, "b"), "a@x"), api.ErrOld)
-	own(t, b, by(message("REQUEST", 2, 0, "b"), "a@x"), api.OK)
-	if got := b.Entries(); len(got) != 1 || got[0].Organizer != "a@x" {
-		t.Errorf("Own: %+v", got)
-	}
-	apply(t, b, "o@x", message("REQUEST", 3, 0, "a"), api.ErrAuth)
+	apply(t, b, "o@x", message("CANCEL", 2, 0, "a"), api.OK)
+	own(t, b, by(message("REQUEST", 3, 0, "b"), "a@x"), api.ErrAuth)
+	// One of two is enough, and the owner's own one does not help.
+	b = made(t, "a@x")
+	own(t, b, by(message("REQUEST", 1, 0, "b"), "a@x"), api.OK)
+	b.Put(entryOf(at(message("REQUEST", 1, 1, "a"), 50)))
+	own(t, b, by(message("REQUEST", 2, 0, "b"), "a@x"), api.ErrAuth)
+	// What Own asks first is told first, and ErrAuth ahead of ErrFull.
+	own(t, b, by(message("REQUEST", 2, 0, ""), "a@x"), api.ErrMiss)
+	own(t, b, by(message("CANCEL", 2, 0, "b"), "a@x"), api.ErrMethod)
+	own(t, b, message("REQUEST", 2, 0, "b"), api.ErrOwner)
+	fill(t, b, 64)
+	own(t, b, by(at(message("REQUEST", 2, 0, "b"), 60), "a@x"), api.ErrAuth)
+	own(t, b, by(named(message("REQUEST", 2, 0, "b"), "w"), "a@x"), api.ErrFull)
 }
 
 func TestFull(t *testing.T) { // P15.1, P15.2
@@ -979,6 +1006,14 @@ func TestManyMessages(t *testing.T) { // P15.1, P15.4, P15.5, P15.6
 		owner := []string{"o@x", "a@x"}[r.Intn(2)]
 		b := made(t, owner)
 		var slow []Entry
+		// What was put may be of several organizers for one UID.
+		for range r.Intn(4) {
+			e := entryOf(someEvent(r, "REQUEST"))
+			if code := b.Put(e); code != api.OK {
+				t.Fatalf("Put(%+v): %v", e, code)
+			}
+			slow = slowPut(slow, e)
+		}
 		for range 40 {
 			m := someEvent(r, methods[r.Intn(len(methods))])
 			if r.Intn(5) == 0 {
@@ -986,8 +1021,14 @@ func TestManyMessages(t *testing.T) { // P15.1, P15.4, P15.5, P15.6
 					m.Organizer = owner
 				}
 				want, e := slowOwn(owner, slow, m)
-				if code := b.Own(m); code != e || !sameAll(b.Entries(), want) {
-					t.Fatalf("Own(%+v) to %+v: %v %+v, not %v %+v", m, slow, code, b.Entries(), e, want)
+				code := b.Own(m)
+				after := b.Entries()
+				if code != e || !sameAll(after, want) {
+					t.Fatalf("Own(%+v) to %+v: %v %+v, not %v %+v", m, slow, code, after, e, want)
+				}
+				follows(t, slow, after, owner, m, Result{Changed: code == api.OK}, code)
+				if again := b.Own(m); again == api.OK || !sameAll(b.Entries(), after) {
+					t.Fatalf("Own(%+v), again, to %+v: %v %+v", m, after, again, b.Entries())
 				}
 				slow = want
 				counts["OWN "+e.Error()]++
@@ -1017,7 +1058,7 @@ func TestManyMessages(t *testing.T) { // P15.1, P15.4, P15.5, P15.6
 			}
 		}
 	}
-	for _, s := range strings.Split("OWN 0,OWN 130,OWN 141,OWN 142,PUBLISH 0,PUBLISH 140,PUBLISH 142,REQUEST 0,REQUEST 140,REQUEST 141,REQUEST 142,ADD 0,ADD 140,ADD 141,ADD 142,ADD 143,CANCEL 0,CANCEL 140,CANCEL 142,CANCEL 143,DECLINECOUNTER 0,DECLINECOUNTER 140,DECLINECOUNTER 141,DECLINECOUNTER 143,REPLY 0,REPLY 140,REPLY 141,REPLY 142,REPLY 143,REFRESH 0,REFRESH 140,REFRESH 141,REFRESH 143,COUNTER 0,COUNTER 140,COUNTER 141,COUNTER 143,OTHER 130", ",") {
+	for _, s := range strings.Split("OWN 0,OWN 130,OWN 140,OWN 141,OWN 142,PUBLISH 0,PUBLISH 140,PUBLISH 142,REQUEST 0,REQUEST 140,REQUEST 141,REQUEST 142,ADD 0,ADD 140,ADD 141,ADD 142,ADD 143,CANCEL 0,CANCEL 140,CANCEL 142,CANCEL 143,DECLINECOUNTER 0,DECLINECOUNTER 140,DECLINECOUNTER 141,DECLINECOUNTER 143,REPLY 0,REPLY 140,REPLY 141,REPLY 142,REPLY 143,REFRESH 0,REFRESH 140,REFRESH 141,REFRESH 143,COUNTER 0,COUNTER 140,COUNTER 141,COUNTER 143,OTHER 130", ",") {
 		method, number, _ := strings.Cut(s, " ")
 		if counts[method+" posthorn "+number] == 0 {
 			t.Errorf("no %s was told %s", method, number)
